@@ -2,8 +2,9 @@ package mercat
 
 import "mercat/api"
 
-// account is what a trader has free. What is coming is not kept here: the
-// loads under way tell it, so the two can't come apart.
+// account is what a trader has free. What is held and what is coming is not
+// kept here: the orders that wait and the loads under way tell it, so they
+// can't come apart.
 type account struct {
 	money  int
 	pieces [api.MaxHalls][api.MaxGoods]int
@@ -66,7 +67,7 @@ func (m *Market) Account(trader int) (api.Account, api.Errno) {
 	if !m.hasTrader(trader) {
 		return api.Account{}, api.ErrTrader
 	}
-	a := api.Account{Free: m.accounts[trader].money}
+	a := api.Account{Free: m.accounts[trader].money, Held: m.heldMoney(trader)}
 	for hall := range m.rates {
 		for good := range m.goods {
 			s := m.stock(trader, hall, good)
@@ -96,6 +97,11 @@ func (m *Market) checkPieces(trader, hall, good, pieces int) api.Errno {
 // stock is what a trader has of a good in a hall.
 func (m *Market) stock(trader, hall, good int) api.Stock {
 	s := api.Stock{Hall: hall, Good: good, Free: m.accounts[trader].pieces[hall][good]}
+	for o := range m.books[hall][good].sides[api.Sell].All() {
+		if o.Trader == trader {
+			s.Held += o.Qty
+		}
+	}
 	for _, l := range m.loads {
 		if l.trader == trader && l.to == hall && l.good == good {
 			s.Coming += l.pieces
@@ -104,11 +110,22 @@ func (m *Market) stock(trader, hall, good int) api.Stock {
 	return s
 }
 
-// allMoney is the money of all traders together.
-func (m *Market) allMoney() int {
+// heldMoney is a trader's money that is held for orders to buy.
+func (m *Market) heldMoney(trader int) int {
 	sum := 0
-	for _, a := range m.accounts {
-		sum += a.money
+	for _, o := range m.waiting() {
+		if o.Trader == trader && o.Side == api.Buy {
+			sum += o.Price * o.Qty
+		}
+	}
+	return sum
+}
+
+// allMoney is the money of all traders and the house together.
+func (m *Market) allMoney() int {
+	sum := m.house
+	for trader, a := range m.accounts {
+		sum += a.money + m.heldMoney(trader)
 	}
 	return sum
 }

@@ -13,6 +13,9 @@ type Market struct {
 	rates    []int // of the halls, one each
 	accounts []account
 	loads    []load
+	books    [][]book // by halls, then goods
+	numbers  int      // of orders, given so far
+	house    int      // the fees
 	time     int
 }
 
@@ -25,6 +28,7 @@ func New(traders, goods int, rates []int) (*Market, api.Errno) {
 		goods:    goods,
 		rates:    slices.Clone(rates),
 		accounts: make([]account, traders),
+		books:    newBooks(len(rates), goods),
 	}, api.OK
 }
 
@@ -42,37 +46,12 @@ func ratesFit(rates []int) bool {
 
 func within(n, least, most int) bool { return least <= n && n <= most }
 
-// hasTrader is asked first by every call of a trader's: New gives no market
-// beside an error, and a call at none is to be refused, not to panic.
+// hasTrader, or hasHall, is what a call asks first: New gives no market beside
+// an error, and a call at none is to be refused, not to panic.
 func (m *Market) hasTrader(trader int) bool {
 	return m != nil && within(trader, 0, len(m.accounts)-1)
 }
 
-func (m *Market) hasHall(hall int) bool { return within(hall, 0, len(m.rates)-1) }
+func (m *Market) hasHall(hall int) bool { return m != nil && within(hall, 0, len(m.rates)-1) }
 
 func (m *Market) hasGood(good int) bool { return within(good, 0, m.goods-1) }
-
-// Place places an order (P7).
-func (m *Market) Place(o api.Order) (int, []api.Trade, api.Errno) { return 0, nil, api.OK }
-
-// Cancel takes an order back (P8).
-func (m *Market) Cancel(trader, id int) api.Errno { return api.OK }
-
-// Change changes an order's price and quantity (P9).
-func (m *Market) Change(trader, id, price, qty int) (int, []api.Trade, api.Errno) {
-	return 0, nil, api.OK
-}
-
-// Book tells what waits of a good in a hall (P10).
-func (m *Market) Book(hall, good int) ([]api.Level, []api.Level, api.Errno) {
-	return nil, nil, api.OK
-}
-
-// Orders tells a trader's orders that wait (P10).
-func (m *Market) Orders(trader int) ([]api.Order, api.Errno) { return nil, api.OK }
-
-// Stat tells what was traded of a good in a hall (P10).
-func (m *Market) Stat(hall, good int) (api.Stat, api.Errno) { return api.Stat{}, api.OK }
-
-// House tells the fees that came in (P10).
-func (m *Market) House() int { return 0 }

@@ -77,24 +77,30 @@ func TestMarketsStandAlone(t *testing.T) {
 	expect(t, "Bring", first.Bring(0, 1, 1, 50), api.OK)
 	expect(t, "Ship", first.Ship(0, 1, 0, 1, 20), api.OK)
 	tickTimes(t, first, api.Way-1)
+	expectPlace(t, first, api.Order{Trader: 0, Price: 3, Qty: 5}, 1)
 	if after := picture(second); after != before {
 		t.Errorf("P2: calls at one market changed another: %s", after)
 	}
 	expect(t, "Bring", second.Bring(0, 1, 1, 50), api.OK)
 	expect(t, "Ship", second.Ship(0, 1, 0, 1, 20), api.OK)
 	tickTimes(t, second, api.Way)
-	expectAccount(t, first, 0, 500, api.Stock{Hall: 0, Good: 1, Coming: 20}, api.Stock{Hall: 1, Good: 1, Free: 30})
+	expect(t, "Pay", second.Pay(1, 5), api.OK)
+	expectPlace(t, second, api.Order{Trader: 1, Price: 4, Qty: 1}, 1)
+	expectHeld(t, first, 0, 485, 15, api.Stock{Hall: 0, Good: 1, Coming: 20}, api.Stock{Hall: 1, Good: 1, Free: 30})
 }
 
-func TestRatesAreReadOnly(t *testing.T) {
-	rates := []int{5, 6, 7, 8}
-	m, _ := mercat.New(1, 1, rates[:2])
-	expect(t, "Pay", m.Pay(0, 1), api.OK)
-	if !slices.Equal(rates, []int{5, 6, 7, 8}) {
+func TestRatesAreReadOnlyAndNotKept(t *testing.T) {
+	rates := []int{5, 100, 7, 8}
+	m, _ := mercat.New(2, 1, rates[:2])
+	expect(t, "Pay", m.Pay(0, 1010), api.OK)
+	if !slices.Equal(rates, []int{5, 100, 7, 8}) {
 		t.Errorf("P2: New wrote into its rates: %v", rates)
 	}
-	rates[0], rates[1] = -1, -1
-	expect(t, "P2: Bring after the rates were written over", m.Bring(0, 1, 0, 1), api.OK)
+	rates[0], rates[1] = -1, 50
+	expect(t, "P2: Bring after the rates were written over", m.Bring(1, 1, 0, 10), api.OK)
+	expectPlace(t, m, api.Order{Trader: 1, Hall: 1, Side: api.Sell, Price: 100, Qty: 10}, 1)
+	expectPlace(t, m, api.Order{Trader: 0, Hall: 1, Side: api.Buy, Price: 100, Qty: 10}, 2,
+		api.Trade{Taker: 2, Maker: 1, With: 1, Price: 100, Qty: 10, Fee: 10})
 }
 
 func TestNoMarketIsRefused(t *testing.T) {
@@ -105,6 +111,19 @@ func TestNoMarketIsRefused(t *testing.T) {
 	expect(t, "P1: Take", m.Take(0, 0, 0, 1), api.ErrTrader)
 	expect(t, "P1: Ship", m.Ship(0, 0, 1, 0, 1), api.ErrTrader)
 	expect(t, "P1: Tick", m.Tick(), api.ErrFull)
+	expectRefused(t, m, api.Order{Price: 1, Qty: 1}, api.ErrTrader)
+	if buys, sells, e := m.Book(0, 0); len(buys) != 0 || len(sells) != 0 || e != api.ErrHall {
+		t.Errorf("P1: Book = %v, %v, %d", buys, sells, e)
+	}
+	if orders, e := m.Orders(0); len(orders) != 0 || e != api.ErrTrader {
+		t.Errorf("P1: Orders = %v, %d", orders, e)
+	}
+	if stat, e := m.Stat(0, 0); stat != (api.Stat{}) || e != api.ErrHall {
+		t.Errorf("P1: Stat = %+v, %d", stat, e)
+	}
+	if fees := m.House(); fees != 0 {
+		t.Errorf("P1: House = %d", fees)
+	}
 	if a, e := m.Account(0); e != api.ErrTrader || a.Free != 0 || a.Held != 0 || len(a.Goods) != 0 {
 		t.Errorf("P1: Account = %+v, %d", a, e)
 	}
