@@ -91,6 +91,9 @@ func (m *Market) checkBook(hall, good int) api.Errno {
 
 func (m *Market) bookOf(o *api.Order) *book { return &m.books[o.Hall][o.Good] }
 
+// sideOf is where an order waits, or would.
+func (m *Market) sideOf(o *api.Order) *queue.Queue[*api.Order] { return m.bookOf(o).sides[o.Side] }
+
 // waiting is all orders that wait, in no order that is told.
 func (m *Market) waiting() []*api.Order {
 	var all []*api.Order

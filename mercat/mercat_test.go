@@ -86,7 +86,11 @@ func TestMarketsStandAlone(t *testing.T) {
 	tickTimes(t, second, api.Way)
 	expect(t, "Pay", second.Pay(1, 5), api.OK)
 	expectPlace(t, second, api.Order{Trader: 1, Price: 4, Qty: 1}, 1)
+	expectKept(t, second, 0, 1, api.ErrOrder)
+	expectChange(t, second, 1, 1, 1, 3, 2)
+	expect(t, "P8: Cancel", second.Cancel(1, 2), api.OK)
 	expectHeld(t, first, 0, 485, 15, api.Stock{Hall: 0, Good: 1, Coming: 20}, api.Stock{Hall: 1, Good: 1, Free: 30})
+	expectOrders(t, first, 0, api.Order{Id: 1, Price: 3, Qty: 5})
 }
 
 func TestRatesAreReadOnlyAndNotKept(t *testing.T) {
@@ -112,6 +116,8 @@ func TestNoMarketIsRefused(t *testing.T) {
 	expect(t, "P1: Ship", m.Ship(0, 0, 1, 0, 1), api.ErrTrader)
 	expect(t, "P1: Tick", m.Tick(), api.ErrFull)
 	expectRefused(t, m, api.Order{Price: 1, Qty: 1}, api.ErrTrader)
+	expectKept(t, m, 0, 1, api.ErrTrader)
+	expectUnchanged(t, m, 0, 1, 1, 1, api.ErrTrader)
 	if buys, sells, e := m.Book(0, 0); len(buys) != 0 || len(sells) != 0 || e != api.ErrHall {
 		t.Errorf("P1: Book = %v, %v, %d", buys, sells, e)
 	}

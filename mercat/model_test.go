@@ -1,6 +1,8 @@
 package mercat_test
 
 import (
+	"fmt"
+	"maps"
 	"slices"
 	"testing"
 
@@ -104,6 +106,52 @@ func (d *model) place(o api.Order) (int, []api.Trade, api.Errno) {
 	return o.Id, trades, api.OK
 }
 
+// find is where an order of a trader's stands, or -1.
+func (d *model) find(trader, id int) int {
+	return slices.IndexFunc(d.waits, func(w api.Order) bool { return w.Trader == trader && w.Id == id })
+}
+
+// cancel does what P8 says.
+func (d *model) cancel(trader, id int) api.Errno {
+	at := d.find(trader, id)
+	if at < 0 {
+		return api.ErrOrder
+	}
+	d.hold(d.waits[at], -d.waits[at].Qty)
+	d.waits = slices.Delete(d.waits, at, at+1)
+	return api.OK
+}
+
+// copy is a model that stands alone: the state to go back to.
+func (d *model) copy() *model {
+	c := *d
+	c.money, c.heldMoney, c.pieces, c.held = maps.Clone(d.money), maps.Clone(d.heldMoney), maps.Clone(d.pieces), maps.Clone(d.held)
+	c.stats, c.waits = maps.Clone(d.stats), slices.Clone(d.waits)
+	return &c
+}
+
+// change does what P9 says with numbers that are right.
+func (d *model) change(trader, id, price, qty int) (int, []api.Trade, api.Errno) {
+	at := d.find(trader, id)
+	if at < 0 {
+		return 0, nil, api.ErrOrder
+	}
+	w := d.waits[at]
+	if price == w.Price && qty <= w.Qty {
+		d.hold(w, qty-w.Qty)
+		d.waits[at].Qty = qty
+		return id, nil, api.OK
+	}
+	before := d.copy()
+	d.cancel(trader, id)
+	w.Price, w.Qty, w.How = price, qty, api.Wait
+	number, trades, e := d.place(w)
+	if e != api.OK {
+		*d = *before
+	}
+	return number, trades, e
+}
+
 // hold moves what so many pieces of an order want from what is free to what is held.
 func (d *model) hold(o api.Order, qty int) {
 	if o.Side == api.Buy {
@@ -150,15 +198,10 @@ func TestPlaceIsAsTheModelSays(t *testing.T) {
 	for seed := range uint32(40) {
 		rates := []int{100, int(seed * 2), 0}
 		m, d := newMarket(t, modelTraders, modelGoods, rates...), newModel(rates)
-		number := seed
-		next := func(below int) int {
-			number = number*1664525 + 1013904223
-			return int(number>>8) % below
-		}
+		next := drawn(seed)
 		for range 300 {
 			give(t, m, d, next)
-			o := api.Order{Id: next(5), Trader: next(modelTraders), Hall: next(len(rates)), Good: next(modelGoods),
-				Side: next(2), Price: 90 + next(20), Qty: 1 + next(30), How: []int{api.Wait, api.Wait, api.Wait, api.Now, api.Whole, api.Post}[next(6)]}
+			o := drawnOrder(next, len(rates))
 			if seed%4 == 0 { // so that many come to wait
 				o.Price += 15 * o.Side
 			}
@@ -174,6 +217,96 @@ func TestPlaceIsAsTheModelSays(t *testing.T) {
 			t.Errorf("the answer %d came %d times: too few to tell anything", e, seen[e])
 		}
 	}
+}
+
+// drawn gives numbers below the one asked for, the same ones in every run.
+func drawn(seed uint32) func(below int) int {
+	return func(below int) int {
+		seed = seed*1664525 + 1013904223
+		return int(seed>>8) % below
+	}
+}
+
+func drawnOrder(next func(int) int, halls int) api.Order {
+	return api.Order{Id: next(5), Trader: next(modelTraders), Hall: next(halls), Good: next(modelGoods),
+		Side: next(2), Price: 90 + next(20), Qty: 1 + next(30), How: []int{api.Wait, api.Wait, api.Wait, api.Now, api.Whole, api.Post}[next(6)]}
+}
+
+func TestCancelAndChangeAreAsTheModelSays(t *testing.T) {
+	seen := map[string]int{}
+	for seed := range uint32(40) {
+		rates := []int{100, int(seed * 2), 0}
+		m, d := newMarket(t, modelTraders, modelGoods, rates...), newModel(rates)
+		next := drawn(seed + 1000)
+		for range 400 {
+			give(t, m, d, next)
+			gap := 10 * int(seed%3) // between the sides; where it is wide many come to wait
+			switch next(8) {
+			case 0:
+				trader, id := drawnNumber(d, next)
+				e := d.cancel(trader, id)
+				expect(t, "P8: Cancel", m.Cancel(trader, id), e)
+				seen[fmt.Sprint("Cancel ", e)]++
+			case 1, 2, 3:
+				seen[compareChange(t, m, d, next, gap)]++
+			default:
+				o := drawnOrder(next, len(rates))
+				o.Price += gap * o.Side
+				comparePlace(t, m, d, o)
+			}
+			compareAll(t, m, d)
+			if t.Failed() {
+				t.Fatalf("seed %d", seed)
+			}
+		}
+	}
+	for _, what := range []string{"Cancel 0", "Cancel 9", "lessened", "placed anew", "traded", "Change 6", "Change 7", "Change 9", "Change at the most orders"} {
+		if seen[what] < 50 {
+			t.Errorf("%s came %d times: too few to tell anything", what, seen[what])
+		}
+	}
+}
+
+// drawnNumber is a trader and a number, most times of an order of his that waits.
+func drawnNumber(d *model, next func(int) int) (trader, id int) {
+	if len(d.waits) == 0 || next(5) == 0 {
+		return next(modelTraders), next(d.numbers + 2)
+	}
+	w := d.waits[next(len(d.waits))]
+	return w.Trader, w.Id
+}
+
+// compareChange changes an order in both, and gives a name to what came of it.
+func compareChange(t *testing.T, m *mercat.Market, d *model, next func(int) int, gap int) string {
+	t.Helper()
+	trader, id := drawnNumber(d, next)
+	price, qty := 90+next(20), 1+next(30)
+	if at := d.find(trader, id); at >= 0 {
+		price += gap * d.waits[at].Side
+		if next(2) == 0 {
+			price = d.waits[at].Price
+		}
+	}
+	if next(8) == 0 {
+		qty *= 20 // so that it can't be had
+	}
+	full := len(d.waits) == api.MaxOrders
+	wantNumber, wantTrades, wantE := d.change(trader, id, price, qty)
+	number, trades, e := m.Change(trader, id, price, qty)
+	if number != wantNumber || e != wantE || !slices.Equal(trades, wantTrades) {
+		t.Errorf("P9: Change(%d, %d, %d, %d) = %d, %+v, %d, want %d, %+v, %d", trader, id, price, qty, number, trades, e, wantNumber, wantTrades, wantE)
+	}
+	switch {
+	case full:
+		return "Change at the most orders"
+	case e != api.OK:
+		return fmt.Sprint("Change ", e)
+	case number == id:
+		return "lessened"
+	case len(trades) > 0:
+		return "traded"
+	}
+	return "placed anew"
 }
 
 // give lets a trader have a little more, now and then.
@@ -260,13 +393,18 @@ func (d *model) levels(hall, good, side int) []api.Level {
 func TestOrdersMakeAndLoseNothing(t *testing.T) {
 	const traders, money, pieces = 5, 5000, 60
 	m := stocked(t, traders, 2, money, pieces, 100, 30)
-	number := uint32(7)
-	next := func(below int) int {
-		number = number*1664525 + 1013904223
-		return int(number>>8) % below
-	}
+	next := drawn(7)
+	placed := 0
 	for range 4000 {
-		m.Place(api.Order{Trader: next(traders), Hall: next(2), Good: next(2), Side: next(2), Price: 95 + next(11), Qty: 1 + next(9), How: next(4)})
+		id, _, _ := m.Place(api.Order{Trader: next(traders), Hall: next(2), Good: next(2), Side: next(2), Price: 95 + next(11), Qty: 1 + next(9), How: next(4)})
+		placed = max(placed, id)
+		switch next(3) {
+		case 0:
+			m.Cancel(next(traders), 1+max(0, placed-next(60)))
+		case 1:
+			id, _, _ = m.Change(next(traders), 1+max(0, placed-next(60)), 95+next(11), 1+next(9))
+			placed = max(placed, id)
+		}
 		if next(3) == 0 {
 			from := next(2)
 			m.Ship(next(traders), from, 1-from, next(2), 1+next(5))

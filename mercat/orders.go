@@ -12,19 +12,11 @@ func (m *Market) Place(o api.Order) (int, []api.Trade, api.Errno) {
 	m.hold(&o)
 	trades := m.match(&o)
 	if o.Qty > 0 && (o.How == api.Wait || o.How == api.Post) {
-		m.bookOf(&o).sides[o.Side].Add(&o)
+		m.sideOf(&o).Add(&o)
 	} else {
 		m.release(&o)
 	}
 	return o.Id, trades, api.OK
-}
-
-// Cancel takes an order back (P8).
-func (m *Market) Cancel(trader, id int) api.Errno { return api.OK }
-
-// Change changes an order's price and quantity (P9).
-func (m *Market) Change(trader, id, price, qty int) (int, []api.Trade, api.Errno) {
-	return 0, nil, api.OK
 }
 
 // refusal is the error for which an order may not be placed, or OK.
@@ -142,12 +134,6 @@ func (m *Market) release(o *api.Order) {
 	} else {
 		a.pieces[o.Hall][o.Good] += o.Qty
 	}
-}
-
-// takeBack lets an order wait no more.
-func (m *Market) takeBack(o *api.Order) {
-	m.bookOf(o).sides[o.Side].Remove(o)
-	m.release(o)
 }
 
 func otherSide(side int) int {
